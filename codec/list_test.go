@@ -8,6 +8,7 @@ import (
 
 	"pinakes/api"
 	"pinakes/codec"
+	"pinakes/sample"
 )
 
 // P1.5: lists with bytes that the document gives, or that follow from its words.
@@ -35,9 +36,9 @@ func TestPackOfKnownLists(t *testing.T) {
 
 // P1.5: the parts in their order, for any lists.
 func TestPackFollowsTheDefinition(t *testing.T) {
-	q := sequence(31)
+	q := sample.Sequence(31)
 	for range 500 {
-		l := q.texts(200, 200)
+		l := texts(&q, 200, 200)
 		want := codec.Number(uint64(len(l)))
 		for _, s := range l {
 			want += codec.Number(uint64(len(s))) + s
@@ -116,7 +117,7 @@ func unpackByDefinition(s string) ([]string, api.Errno) {
 
 // P1.6: all short strings of certain bytes. If there is a list whose Pack is the string, it is the result.
 func TestUnpackFollowsTheDefinition(t *testing.T) {
-	forStrings("\x00\x01\x02\x03\x80\xffa", 6, func(s string) {
+	for s := range sample.Texts(sample.Singles("\x00\x01\x02\x03\x80\xffa"), 6) {
 		l, e := codec.Unpack(s)
 		wantL, wantE := unpackByDefinition(s)
 		if !slices.Equal(l, wantL) || e != wantE {
@@ -125,36 +126,36 @@ func TestUnpackFollowsTheDefinition(t *testing.T) {
 		if e == api.OK && codec.Pack(l) != s {
 			t.Errorf("Unpack(% x): %q, which has another Pack", s, l)
 		}
-	})
+	}
 }
 
 // P1.7: Unpack undoes Pack; and no beginning of a Pack, nor a Pack with bytes behind it, passes for one.
 func TestUnpackUndoesPack(t *testing.T) {
-	q := sequence(32)
+	q := sample.Sequence(32)
 	for range 300 {
-		l := q.texts(150, 150)
+		l := texts(&q, 150, 150)
 		given := slices.Clone(l)
 		s := codec.Pack(l)
 		got, e := codec.Unpack(s)
 		if !slices.Equal(got, given) || !slices.Equal(l, given) || e != api.OK {
 			t.Fatalf("Unpack(Pack(%q)): %q, %d", given, got, e)
 		}
-		_, e = codec.Unpack(s[:q.below(len(s))])
+		_, e = codec.Unpack(s[:q.Below(len(s))])
 		expectError(t, "Unpack of a beginning of Pack", s, e, api.ErrShort)
-		_, e = codec.Unpack(s + q.text(1+q.below(3)))
+		_, e = codec.Unpack(s + q.Bytes(1+q.Below(3)))
 		expectError(t, "Unpack of more than Pack", s, e, api.ErrForm)
 	}
 }
 
 // P1.7: no Pack is the beginning of another one. Sorted, a string that is a beginning stands directly before one that it begins.
 func TestNoPackBeginsAnother(t *testing.T) {
-	q := sequence(33)
+	q := sample.Sequence(33)
 	packs := []string{codec.Pack(nil)}
-	forStrings("\x00\x01\x02", 4, func(s string) {
+	for s := range sample.Texts(sample.Singles("\x00\x01\x02"), 4) {
 		packs = append(packs, codec.Pack([]string{s}), codec.Pack([]string{s, ""}), codec.Pack([]string{"", s}))
-	})
+	}
 	for range 2000 {
-		packs = append(packs, codec.Pack(q.texts(4, 4)))
+		packs = append(packs, codec.Pack(texts(&q, 4, 4)))
 	}
 	slices.Sort(packs)
 	packs = slices.Compact(packs)
@@ -192,9 +193,9 @@ func TestIntsOfKnownLists(t *testing.T) {
 
 // P1.8: the parts in their order, for any lists; P1.7: ReadInts undoes Ints.
 func TestReadIntsUndoesInts(t *testing.T) {
-	q := sequence(34)
+	q := sample.Sequence(34)
 	for range 500 {
-		l := q.integers(200)
+		l := integers(&q, 200)
 		given := slices.Clone(l)
 		want := codec.Number(uint64(len(l)))
 		for _, n := range l {
@@ -208,9 +209,9 @@ func TestReadIntsUndoesInts(t *testing.T) {
 		if !slices.Equal(got, given) || !slices.Equal(l, given) || e != api.OK {
 			t.Fatalf("ReadInts(Ints(%v)): %v, %d", given, got, e)
 		}
-		_, e = codec.ReadInts(s[:q.below(len(s))])
+		_, e = codec.ReadInts(s[:q.Below(len(s))])
 		expectError(t, "ReadInts of a beginning of Ints", s, e, api.ErrShort)
-		_, e = codec.ReadInts(s + q.text(1+q.below(3)))
+		_, e = codec.ReadInts(s + q.Bytes(1+q.Below(3)))
 		expectError(t, "ReadInts of more than Ints", s, e, api.ErrForm)
 	}
 }
@@ -271,7 +272,7 @@ func readIntsByDefinition(s string) ([]int, api.Errno) {
 
 // P1.8: all short strings of certain bytes. If there is a list whose Ints is the string, it is the result.
 func TestReadIntsFollowsTheDefinition(t *testing.T) {
-	forStrings("\x00\x01\x02\x03\x7f\x80\xff", 6, func(s string) {
+	for s := range sample.Texts(sample.Singles("\x00\x01\x02\x03\x7f\x80\xff"), 6) {
 		l, e := codec.ReadInts(s)
 		wantL, wantE := readIntsByDefinition(s)
 		if !slices.Equal(l, wantL) || e != wantE {
@@ -280,7 +281,7 @@ func TestReadIntsFollowsTheDefinition(t *testing.T) {
 		if e == api.OK && codec.Ints(l) != s {
 			t.Errorf("ReadInts(% x): %v, which has other Ints", s, l)
 		}
-	})
+	}
 }
 
 // R3, R4: results are new memory; what is done to one changes no other one.
@@ -298,21 +299,21 @@ func TestResultsAreNewMemory(t *testing.T) {
 
 // P1: every function of the package terminates without a panic, for arbitrary arguments.
 func TestArbitraryArguments(t *testing.T) {
-	q := sequence(35)
+	q := sample.Sequence(35)
 	for range 20000 {
-		s := q.text(q.below(40))
+		s := q.Bytes(q.Below(40))
 		codec.Sum(s)
 		codec.ReadNumber(s)
 		codec.Unpack(s)
 		codec.ReadInts(s)
-		codec.Unpack(codec.Number(q.number()) + s)
-		codec.ReadInts(codec.Number(q.number()) + s)
-		codec.Unpack("\x01" + codec.Number(q.number()) + s)
-		n := q.number()
+		codec.Unpack(codec.Number(q.Number()) + s)
+		codec.ReadInts(codec.Number(q.Number()) + s)
+		codec.Unpack("\x01" + codec.Number(q.Number()) + s)
+		n := q.Number()
 		codec.Number(n)
 		codec.Signed(int(n))
 		codec.Unsigned(n)
-		codec.Pack(q.texts(3, 3))
-		codec.Ints(q.integers(3))
+		codec.Pack(texts(&q, 3, 3))
+		codec.Ints(integers(&q, 3))
 	}
 }

@@ -8,6 +8,7 @@ import (
 
 	"pinakes/api"
 	"pinakes/codec"
+	"pinakes/sample"
 )
 
 // interestingNumbers: those beside which the number of groups changes, the greatest ones, and others of any magnitude.
@@ -17,9 +18,9 @@ func interestingNumbers() []uint64 {
 		n := uint64(1) << shift
 		l = append(l, n-1, n, n+1)
 	}
-	q := sequence(21)
+	q := sample.Sequence(21)
 	for range 2000 {
-		l = append(l, q.number())
+		l = append(l, q.Number())
 	}
 	return l
 }
@@ -157,11 +158,11 @@ func TestReadNumberFollowsTheDefinition(t *testing.T) {
 		}
 	}
 	for before := range 11 {
-		forStrings("\x00\x01\x02\x40\x7f\x80\x81\xff", 3, func(s string) {
+		for s := range sample.Texts(sample.Singles("\x00\x01\x02\x40\x7f\x80\x81\xff"), 3) {
 			check(strings.Repeat("\x80", before) + s)
 			check(strings.Repeat("\xd5", before) + s)
 			check(strings.Repeat("\xff", before) + s)
-		})
+		}
 	}
 }
 

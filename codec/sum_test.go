@@ -6,6 +6,7 @@ import (
 	"testing"
 
 	"pinakes/codec"
+	"pinakes/sample"
 )
 
 // P1.1: values that others publish for the CRC-32 of IEEE 802.3.
@@ -52,9 +53,9 @@ func TestSumFollowsTheDefinition(t *testing.T) {
 			t.Errorf("Sum of the byte %x: %#x, want %#x", b, codec.Sum(s), bitwise(s))
 		}
 	}
-	q := sequence(11)
+	q := sample.Sequence(11)
 	for range 500 {
-		s := q.text(q.below(300))
+		s := q.Bytes(q.Below(300))
 		if codec.Sum(s) != bitwise(s) {
 			t.Errorf("Sum(% x): %#x, want %#x", s, codec.Sum(s), bitwise(s))
 		}
@@ -63,9 +64,9 @@ func TestSumFollowsTheDefinition(t *testing.T) {
 
 // P1.1: the length of the string does not matter.
 func TestSumOfLongStrings(t *testing.T) {
-	q := sequence(12)
+	q := sample.Sequence(12)
 	for _, size := range []int{1000, 4096, 65537, 1 << 20} {
-		s := q.text(size)
+		s := q.Bytes(size)
 		if got, want := codec.Sum(s), crc32.ChecksumIEEE([]byte(s)); got != want {
 			t.Errorf("Sum of %d bytes: %#x, want %#x", size, got, want)
 		}
@@ -74,13 +75,13 @@ func TestSumOfLongStrings(t *testing.T) {
 
 // P1.7: every difference within four bytes that follow each other changes the checksum.
 func TestSumTellsBursts(t *testing.T) {
-	q := sequence(13)
+	q := sample.Sequence(13)
 	for range 20000 {
-		s := q.text(1 + q.below(60))
+		s := q.Bytes(1 + q.Below(60))
 		other := []byte(s)
-		from := q.below(len(other))
+		from := q.Below(len(other))
 		for i := from; i < len(other) && i < from+4; i++ {
-			other[i] ^= byte(q.next())
+			other[i] ^= byte(q.Next())
 		}
 		if string(other) != s && codec.Sum(string(other)) == codec.Sum(s) {
 			t.Errorf("Sum(% x) equals Sum(% x)", s, other)

@@ -7,6 +7,7 @@ import (
 
 	"pinakes/api"
 	"pinakes/marc8"
+	"pinakes/sample"
 )
 
 // spread returns s with its composed characters replaced by their letters and marks.
@@ -25,11 +26,11 @@ func (k tables) spread(s string) string {
 // P2.3: if Encode(s) is t, Decode(t) is s, with the parts of composed characters.
 func TestDecodeOfEncode(t *testing.T) {
 	k := readTables()
-	q := sequence(23)
+	q := sample.Sequence(23)
 	pieces := strings.Split("a,Z, ,@,é,Ç,İ,й,α,ς,ю,Ł,€,\u0301,\u0323,\uFE22,\n,\x1f", ",")
 	encoded := 0
 	for range 20000 {
-		s := q.text(pieces, q.below(16))
+		s := q.Join(pieces, q.Below(16))
 		coded, _, kind := marc8.Encode(s)
 		if kind != api.OK {
 			continue
@@ -44,11 +45,11 @@ func TestDecodeOfEncode(t *testing.T) {
 
 // P2.3: Encode(Decode(t)) can be decoded to the same text as t.
 func TestDecodeOfEncodeOfDecode(t *testing.T) {
-	q := sequence(24)
+	q := sample.Sequence(24)
 	pieces := append([]string{"\x1b(B", "\x1b(S", "\x1b(N"}, hexBytes("00 0A 1F 20 3F 40 41 58 61 75 78 79 E0 E2 FB FE A1 BC C8 8D 88")...)
 	decoded := 0
 	for range 20000 {
-		s := q.text(pieces, q.below(16))
+		s := q.Join(pieces, q.Below(16))
 		text, _, kind := marc8.Decode(s)
 		if kind != api.OK {
 			continue
@@ -89,11 +90,11 @@ func TestTextsOfASCII(t *testing.T) {
 
 // P1: arbitrary bytes are converted or refused, and the results with an error are zero values (R2).
 func TestArbitraryBytes(t *testing.T) {
-	q := sequence(25)
+	q := sample.Sequence(25)
 	for range 20000 {
-		b := make([]byte, q.below(24))
+		b := make([]byte, q.Below(24))
 		for i := range b {
-			b[i] = byte(q.next())
+			b[i] = byte(q.Next())
 		}
 		expectTotal(t, "Decode", marc8.Decode, string(b))
 		expectTotal(t, "Encode", marc8.Encode, string(b))

@@ -6,6 +6,7 @@ import (
 
 	"pinakes/api"
 	"pinakes/marc8"
+	"pinakes/sample"
 )
 
 func expectDecoded(t *testing.T, s string, want answer) {
@@ -169,13 +170,17 @@ func TestDecodeAsDefined(t *testing.T) {
 		t.Helper()
 		expectDecoded(t, s, k.decode(s))
 	}
-	forTexts(hexBytes("1B 28 42 53 4E 59 E2 A1 0A 7F"), 5, compare)
-	forTexts([]string{"\x1b(B", "\x1b(S", "\x1b(N", "a", "[", "\xf2", "\xfe", "\x1e", "\x1b"}, 4, compare)
-	q := sequence(2)
+	for s := range sample.Texts(hexBytes("1B 28 42 53 4E 59 E2 A1 0A 7F"), 5) {
+		compare(s)
+	}
+	for s := range sample.Texts([]string{"\x1b(B", "\x1b(S", "\x1b(N", "a", "[", "\xf2", "\xfe", "\x1e", "\x1b"}, 4) {
+		compare(s)
+	}
+	q := sample.Sequence(2)
 	everything := append([]string{"\x1b(B", "\x1b(S", "\x1b(N", "\x1b"}, hexBytes("00 0A 1F 20 3F 40 41 5F 61 78 79 7A 7E E0 E2 E9 FB FE A1 BC C8 8D")...)
 	rare := append([]string{"\xfc", "\xc9", "\x7f", "\x8a"}, everything...)
 	for range 20000 {
-		compare(q.text(everything, q.below(12)))
-		compare(q.text(rare, q.below(40)))
+		compare(q.Join(everything, q.Below(12)))
+		compare(q.Join(rare, q.Below(40)))
 	}
 }

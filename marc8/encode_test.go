@@ -6,6 +6,7 @@ import (
 
 	"pinakes/api"
 	"pinakes/marc8"
+	"pinakes/sample"
 )
 
 func expectEncoded(t *testing.T, s string, want answer) {
@@ -170,16 +171,18 @@ func TestEncodeAsDefined(t *testing.T) {
 		t.Helper()
 		expectEncoded(t, s, k.encode(s))
 	}
-	forTexts([]string{"a", "@", "é", "α", "я", "Ł", "\u0301", "\n", "日", "\xc3"}, 4, compare)
-	q := sequence(22)
+	for s := range sample.Texts([]string{"a", "@", "é", "α", "я", "Ł", "\u0301", "\n", "日", "\xc3"}, 4) {
+		compare(s)
+	}
+	q := sample.Sequence(22)
 	everything := strings.Split("a,Z, ,1,?,@,{,~,é,ű,Ç,й,α,Ω,ς,ю,Ъ,ъ,Ч,Ł,ƀ,ß,€,\u200d,\u0301,\u0323,\uFE22,\u0313,\n,\x1f,\x00", ",")
 	for range 4000 {
-		s := q.text(everything, q.below(20))
+		s := q.Join(everything, q.Below(20))
 		compare(s)
 		// A text that is cut off anywhere, or has a byte that does not fit.
-		at := q.below(len(s) + 1)
+		at := q.Below(len(s) + 1)
 		compare(s[:at])
-		compare(s[:at] + string([]byte{byte(q.next())}) + s[at:])
+		compare(s[:at] + string([]byte{byte(q.Next())}) + s[at:])
 	}
 }
 
@@ -187,13 +190,13 @@ func TestEncodeAsDefined(t *testing.T) {
 func TestEncodeOfBytes(t *testing.T) {
 	k := readTables()
 	starts := hexBytes("41 80 8F 90 9F A0 A9 BF C1 C3 CE DF E0 E2 ED EF F0 F1 F4 F5 FF")
-	forTexts(starts, 2, func(s string) {
+	for s := range sample.Texts(starts, 2) {
 		expectEncoded(t, s, k.encode(s))
 		expectEncoded(t, "é"+s, k.encode("é"+s))
-	})
-	forTexts(hexBytes("80 8F 90 9F A0 BF 41"), 3, func(rest string) {
+	}
+	for rest := range sample.Texts(hexBytes("80 8F 90 9F A0 BF 41"), 3) {
 		for _, first := range hexBytes("C2 E0 E1 ED EF F0 F3 F4") {
 			expectEncoded(t, first+rest, k.encode(first+rest))
 		}
-	})
+	}
 }

@@ -29,49 +29,6 @@ func expect(t *testing.T, call string, conversion func(string) (string, int, api
 	}
 }
 
-// sequence yields numbers that look random and are the same in every run.
-type sequence uint64
-
-func (q *sequence) next() uint64 {
-	*q += 0x9e3779b97f4a7c15
-	x := uint64(*q)
-	x = (x ^ x>>30) * 0xbf58476d1ce4e5b9
-	x = (x ^ x>>27) * 0x94d049bb133111eb
-	return x ^ x>>31
-}
-
-// below returns a number from 0 to n-1.
-func (q *sequence) below(n int) int { return int(q.next() % uint64(n)) }
-
-// text joins so many of pieces.
-func (q *sequence) text(pieces []string, size int) string {
-	var b strings.Builder
-	for range size {
-		b.WriteString(pieces[q.below(len(pieces))])
-	}
-	return b.String()
-}
-
-// forTexts calls check for every text of at most size of the pieces.
-func forTexts(pieces []string, size int, check func(string)) {
-	level := []string{""}
-	for n := 0; ; n++ {
-		for _, s := range level {
-			check(s)
-		}
-		if n == size {
-			return
-		}
-		var longer []string
-		for _, s := range level {
-			for _, p := range pieces {
-				longer = append(longer, s+p)
-			}
-		}
-		level = longer
-	}
-}
-
 // hexBytes makes pieces of one byte each of bytes in hexadecimal.
 func hexBytes(list string) []string {
 	var pieces []string

@@ -6,6 +6,7 @@ import (
 	"unicode/utf8"
 
 	"pinakes/api"
+	"pinakes/sample"
 )
 
 // The tables of the chapter, in its own words.
@@ -181,9 +182,9 @@ func byteOf(set map[byte]rune, c rune) (byte, bool) {
 // canGoOn says whether some bytes behind rest make it one valid sequence.
 func canGoOn(rest string) bool {
 	found := false
-	forTexts(hexBytes("80 90 A0 BF"), 3, func(more string) {
+	for more := range sample.Texts(hexBytes("80 90 A0 BF"), 3) {
 		found = found || more != "" && utf8.ValidString(rest+more) && utf8.RuneCountInString(rest+more) == 1
-	})
+	}
 	return found
 }
 
