@@ -19,6 +19,15 @@ func TestWriteOfKnownRecords(t *testing.T) {
 	expectWritten(t, record(field("999", "~ ", "~")), "00043nam a2200037   4500999000500000\x1e~ \x1f~\x1e\x1d", api.OK)
 }
 
+// P3.1, R1: nil and empty lists do not differ.
+func TestEmptyListsOfWrite(t *testing.T) {
+	expectWritten(t, record([]api.Field{}...), empty, api.OK)
+	want, _ := marc.Write(record(control("001", "x")))
+	expectWritten(t, record(api.Field{Tag: "001", Data: "x", Subs: []api.Sub{}}), want, api.OK)
+	expectWritten(t, record(api.Field{Tag: "245", Ind: "10", Subs: []api.Sub{}}), "", api.ErrField)
+	expectWritten(t, record(api.Field{Tag: "245", Ind: "10", Subs: nil}), "", api.ErrField)
+}
+
 // P3.1: Kind and Level are letters.
 func TestKindAndLevelOfWrite(t *testing.T) {
 	for b := range 256 {
