@@ -142,7 +142,7 @@ func TestWhatHasNoEffectOnKeys(t *testing.T) {
 	for range 10000 {
 		r := someRecord(&q)
 		want := keys.All(r)
-		other := copyOf(r)
+		other := sample.CopyOf(r)
 		other.Kind, other.Level = byte(q.Next()), byte(q.Next())
 		mixNumbers(&q, other.Fields)
 		expectAll(t, other, want...)

@@ -73,7 +73,7 @@ func expectIsbn(t *testing.T, s, want string) {
 
 func expectTitle(t *testing.T, r api.Record, want string) {
 	t.Helper()
-	given := copyOf(r)
+	given := sample.CopyOf(r)
 	for range 2 {
 		if got := keys.Title(r); got != want {
 			t.Errorf("Title(%s): %s, want %s", shown(r), shown(got), shown(want))
@@ -84,7 +84,7 @@ func expectTitle(t *testing.T, r api.Record, want string) {
 
 func expectAll(t *testing.T, r api.Record, want ...string) {
 	t.Helper()
-	given := copyOf(r)
+	given := sample.CopyOf(r)
 	for range 2 {
 		got := keys.All(r)
 		if !slices.Equal(got, want) {
@@ -98,38 +98,16 @@ func expectAll(t *testing.T, r api.Record, want ...string) {
 // expectUnchanged checks R3: a call has not changed its record.
 func expectUnchanged(t *testing.T, r, given api.Record) {
 	t.Helper()
-	if !equal(r, given) {
+	if !sample.Equal(r, given) {
 		t.Errorf("%s was changed to %s", shown(given), shown(r))
 	}
 }
 
+// The fields of the tests are written in this way.
+var field = sample.Field
+
 func record(fields ...api.Field) api.Record {
 	return api.Record{Kind: 'a', Level: 'm', Fields: fields}
-}
-
-// field makes a field with subfields: each text is a code and what is behind it.
-func field(tag, ind string, texts ...string) api.Field {
-	f := api.Field{Tag: tag, Ind: ind}
-	for _, s := range texts {
-		f.Subs = append(f.Subs, api.Sub{Code: s[0], Text: s[1:]})
-	}
-	return f
-}
-
-// copyOf returns a record that shares no lists with r.
-func copyOf(r api.Record) api.Record {
-	r.Fields = slices.Clone(r.Fields)
-	for i := range r.Fields {
-		r.Fields[i].Subs = slices.Clone(r.Fields[i].Subs)
-	}
-	return r
-}
-
-func equal(a, b api.Record) bool {
-	sameField := func(f, g api.Field) bool {
-		return f.Tag == g.Tag && f.Ind == g.Ind && f.Data == g.Data && slices.Equal(f.Subs, g.Subs)
-	}
-	return a.Kind == b.Kind && a.Level == b.Level && slices.EqualFunc(a.Fields, b.Fields, sameField)
 }
 
 // somePieces are characters of every line of the tables, marks, signs, and bytes that are no characters.

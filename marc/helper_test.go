@@ -28,40 +28,15 @@ func emmaRecord() api.Record {
 	return r
 }
 
+// The fields of the tests are written in this way.
+var field, control = sample.Field, sample.Control
+
 func record(fields ...api.Field) api.Record {
 	return api.Record{Kind: 'a', Level: 'm', Fields: fields}
 }
 
-func control(tag, data string) api.Field { return api.Field{Tag: tag, Data: data} }
-
-// field makes a field with subfields, each written as its code and its text.
-func field(tag, ind string, subs ...string) api.Field {
-	f := api.Field{Tag: tag, Ind: ind}
-	for _, s := range subs {
-		f.Subs = append(f.Subs, api.Sub{Code: s[0], Text: s[1:]})
-	}
-	return f
-}
-
 func many(f api.Field, times int) []api.Field {
 	return slices.Repeat([]api.Field{f}, times)
-}
-
-// copyOf returns a record that shares no lists with r. Empty lists are nil.
-func copyOf(r api.Record) api.Record {
-	c := api.Record{Kind: r.Kind, Level: r.Level}
-	for _, f := range r.Fields {
-		f.Subs = append([]api.Sub(nil), f.Subs...)
-		c.Fields = append(c.Fields, f)
-	}
-	return c
-}
-
-func equal(a, b api.Record) bool {
-	sameField := func(f, g api.Field) bool {
-		return f.Tag == g.Tag && f.Ind == g.Ind && f.Data == g.Data && slices.Equal(f.Subs, g.Subs)
-	}
-	return a.Kind == b.Kind && a.Level == b.Level && slices.EqualFunc(a.Fields, b.Fields, sameField)
 }
 
 // around puts a leader and the ends around entries and data.
@@ -97,7 +72,7 @@ func shown(r api.Record) string { return cut(fmt.Sprintf("%q", r)) }
 func expectParsed(t *testing.T, s string, want api.Record) {
 	t.Helper()
 	got, at, e := marc.Parse(s)
-	if at != 0 || e != api.OK || !equal(got, want) {
+	if at != 0 || e != api.OK || !sample.Equal(got, want) {
 		t.Errorf("Parse(%q): %s, %d, error %d, want %s", cut(s), shown(got), at, e, shown(want))
 	}
 }
@@ -105,7 +80,7 @@ func expectParsed(t *testing.T, s string, want api.Record) {
 func expectRefused(t *testing.T, s string, wantAt int, wantE api.Errno) {
 	t.Helper()
 	got, at, e := marc.Parse(s)
-	if at != wantAt || e != wantE || !equal(got, api.Record{}) {
+	if at != wantAt || e != wantE || !sample.Equal(got, api.Record{}) {
 		t.Errorf("Parse(%q): %s, %d, error %d, want %d, error %d", cut(s), shown(got), at, e, wantAt, wantE)
 	}
 }
@@ -125,14 +100,14 @@ func expectDefined(t *testing.T, s string) api.Errno {
 // expectWritten compares Write, and Right, of r with a result; R3: neither changes r.
 func expectWritten(t *testing.T, r api.Record, want string, wantE api.Errno) {
 	t.Helper()
-	given := copyOf(r)
+	given := sample.CopyOf(r)
 	if got, e := marc.Write(r); got != want || e != wantE {
 		t.Errorf("Write(%s): %q, error %d, want %q, error %d", shown(r), cut(got), e, cut(want), wantE)
 	}
 	if marc.Right(r) != (wantE == api.OK) {
 		t.Errorf("Right(%s): %v", shown(r), marc.Right(r))
 	}
-	if !equal(r, given) {
+	if !sample.Equal(r, given) {
 		t.Errorf("Write or Right made %s of %s", shown(r), shown(given))
 	}
 }

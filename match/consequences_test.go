@@ -35,7 +35,7 @@ func TestPointsOfTheSameLetters(t *testing.T) {
 
 // rewritten returns a record with the same words in its titles and authors.
 func rewritten(q *sample.Sequence, r api.Record) api.Record {
-	r = copyOf(r)
+	r = sample.CopyOf(r)
 	for _, f := range r.Fields {
 		if f.Tag != "100" && f.Tag != "245" {
 			continue
@@ -81,7 +81,7 @@ func TestRecordsAreTheSameAsThemselves(t *testing.T) {
 			if match.Points(r, r) < 40 || !match.Same(r, r) {
 				t.Errorf("%s has %d points with itself", shown(r), match.Points(r, r))
 			}
-			expectPairs(t, []api.Record{r, copyOf(r)}, [2]int{0, 1})
+			expectPairs(t, []api.Record{r, sample.CopyOf(r)}, [2]int{0, 1})
 		} else if !match.Same(r, r) {
 			others++
 		}
@@ -125,7 +125,7 @@ func TestWhatHasNoEffect(t *testing.T) {
 	for range 10000 {
 		a, b := someRecord(&q), someRecord(&q)
 		want := match.Points(a, b)
-		other := copyOf(a)
+		other := sample.CopyOf(a)
 		other.Level = byte(q.Next())
 		extra := []api.Field{field("700", "1 ", "aX"), field("246", "00", "aX"), control("001", "850101s1984"), field("264", "  ", "c1984"), field("", "", "a"+one), {}}
 		at := q.Below(len(other.Fields) + 1)

@@ -7,6 +7,7 @@ import (
 
 	"pinakes/api"
 	"pinakes/match"
+	"pinakes/sample"
 )
 
 func shown(x any) string {
@@ -17,7 +18,7 @@ func shown(x any) string {
 // expectPoints compares Points, and Same, of two records in both orders with a number. R3: the records are not changed; R4: the second call returns the same.
 func expectPoints(t *testing.T, a, b api.Record, want int) {
 	t.Helper()
-	givenA, givenB := copyOf(a), copyOf(b)
+	givenA, givenB := sample.CopyOf(a), sample.CopyOf(b)
 	for range 2 {
 		if p, q := match.Points(a, b), match.Points(b, a); p != want || q != want {
 			t.Errorf("Points of %s and %s: %d, the other way round %d, want %d", shown(a), shown(b), p, q, want)
@@ -26,7 +27,7 @@ func expectPoints(t *testing.T, a, b api.Record, want int) {
 			t.Errorf("Same of %s and %s with %d points: %v, the other way round %v", shown(a), shown(b), want, p, q)
 		}
 	}
-	if !equal(a, givenA) || !equal(b, givenB) {
+	if !sample.Equal(a, givenA) || !sample.Equal(b, givenB) {
 		t.Errorf("%s and %s were changed to %s and %s", shown(givenA), shown(givenB), shown(a), shown(b))
 	}
 }
@@ -36,7 +37,7 @@ func expectPairs(t *testing.T, l []api.Record, want ...[2]int) {
 	t.Helper()
 	given := make([]api.Record, len(l))
 	for i, r := range l {
-		given[i] = copyOf(r)
+		given[i] = sample.CopyOf(r)
 	}
 	for range 2 {
 		got := match.Pairs(l)
@@ -45,7 +46,7 @@ func expectPairs(t *testing.T, l []api.Record, want ...[2]int) {
 		}
 		clear(got)
 	}
-	if !slices.EqualFunc(l, given, equal) {
+	if !slices.EqualFunc(l, given, sample.Equal) {
 		t.Errorf("%s was changed to %s", shown(given), shown(l))
 	}
 }
@@ -72,23 +73,12 @@ func expectParts(t *testing.T, n int, pairs [][2]int, want ...[]int) {
 	}
 }
 
+// The fields of the tests are written in this way.
+var field, control = sample.Field, sample.Control
+
 // record makes a record of the kind a.
 func record(fields ...api.Field) api.Record {
 	return api.Record{Kind: 'a', Level: 'm', Fields: fields}
-}
-
-// field makes a field with subfields: each text is a code and what is behind it.
-func field(tag, ind string, texts ...string) api.Field {
-	f := api.Field{Tag: tag, Ind: ind}
-	for _, s := range texts {
-		f.Subs = append(f.Subs, api.Sub{Code: s[0], Text: s[1:]})
-	}
-	return f
-}
-
-// control makes a control field.
-func control(tag, data string) api.Field {
-	return api.Field{Tag: tag, Data: data}
 }
 
 // numbers makes a field for book numbers, one subfield for each.
@@ -119,20 +109,4 @@ func published(texts ...string) api.Field {
 func withKind(kind byte, r api.Record) api.Record {
 	r.Kind = kind
 	return r
-}
-
-// copyOf returns a record that shares no lists with r.
-func copyOf(r api.Record) api.Record {
-	r.Fields = slices.Clone(r.Fields)
-	for i := range r.Fields {
-		r.Fields[i].Subs = slices.Clone(r.Fields[i].Subs)
-	}
-	return r
-}
-
-func equal(a, b api.Record) bool {
-	sameField := func(f, g api.Field) bool {
-		return f.Tag == g.Tag && f.Ind == g.Ind && f.Data == g.Data && slices.Equal(f.Subs, g.Subs)
-	}
-	return a.Kind == b.Kind && a.Level == b.Level && slices.EqualFunc(a.Fields, b.Fields, sameField)
 }

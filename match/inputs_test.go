@@ -68,7 +68,7 @@ func someYear(q *sample.Sequence) string {
 
 // varied returns a record with a field more, a field less, or another order of the fields.
 func varied(q *sample.Sequence, r api.Record) api.Record {
-	r = copyOf(r)
+	r = sample.CopyOf(r)
 	if at := q.Below(len(r.Fields) + 1); at < len(r.Fields) && q.Below(2) == 0 {
 		r.Fields = slices.Delete(r.Fields, at, at+1)
 	} else {

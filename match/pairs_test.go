@@ -73,7 +73,7 @@ func TestPairsWithoutCommonKey(t *testing.T) {
 		expectPair(t, other, other, true)
 		// With a book number, they have one.
 		with := func(r api.Record) api.Record {
-			r = copyOf(r)
+			r = sample.CopyOf(r)
 			r.Fields = append(r.Fields, numbers(three, one))
 			return r
 		}

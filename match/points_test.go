@@ -351,7 +351,7 @@ func TestLargeRecords(t *testing.T) {
 	const size = 1 << 17
 	long := strings.Repeat("1", size)
 	a := record(title("X"), author(strings.Repeat("Y ", size)), published(long, strings.Repeat("123 ", size)+"x1984"), control("008", long))
-	b := copyOf(a)
+	b := sample.CopyOf(a)
 	for range size {
 		a.Fields = append(a.Fields, numbers(one, twoShort), title("-"))
 		b.Fields = append(b.Fields, numbers("1", three), author("-"))

@@ -53,7 +53,7 @@ func TestWhatHasNoEffect(t *testing.T) {
 	q := sample.Sequence(53)
 	for range 20000 {
 		rules, r := someRules(&q), someRecord(&q)
-		other := copyOf(r)
+		other := sample.CopyOf(r)
 		other.Kind, other.Level = byte(q.Next()), byte(q.Next())
 		for n := range other.Fields {
 			f := &other.Fields[n]

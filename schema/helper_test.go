@@ -21,7 +21,8 @@ func record(fields ...api.Field) api.Record {
 	return api.Record{Kind: 'a', Level: 'm', Fields: fields}
 }
 
-func control(tag, data string) api.Field { return api.Field{Tag: tag, Data: data} }
+// The control fields of the tests are written in this way.
+var control = sample.Control
 
 // field makes a data field with a subfield for each byte of codes.
 func field(tag, ind, codes string) api.Field {
@@ -59,22 +60,6 @@ func allBytes() string {
 
 func oneByte(n int) string { return string([]byte{byte(n)}) }
 
-// copyOf returns a record that shares no lists with r.
-func copyOf(r api.Record) api.Record {
-	r.Fields = slices.Clone(r.Fields)
-	for i := range r.Fields {
-		r.Fields[i].Subs = slices.Clone(r.Fields[i].Subs)
-	}
-	return r
-}
-
-func equal(a, b api.Record) bool {
-	sameField := func(f, g api.Field) bool {
-		return f.Tag == g.Tag && f.Ind == g.Ind && f.Data == g.Data && slices.Equal(f.Subs, g.Subs)
-	}
-	return a.Kind == b.Kind && a.Level == b.Level && slices.EqualFunc(a.Fields, b.Fields, sameField)
-}
-
 func shown(x any) string {
 	s := fmt.Sprintf("%+q", x)
 	return s[:min(len(s), 300)]
@@ -83,7 +68,7 @@ func shown(x any) string {
 // expectProblems compares Check, and Fits, with a result. R3: neither changes the arguments; R4: the second call returns the same.
 func expectProblems(t *testing.T, rules []api.Rule, r api.Record, want ...api.Problem) {
 	t.Helper()
-	givenRules, given := slices.Clone(rules), copyOf(r)
+	givenRules, given := slices.Clone(rules), sample.CopyOf(r)
 	for range 2 {
 		if got := schema.Check(rules, r); !slices.Equal(got, want) {
 			t.Errorf("Check(%s, %s): %v, want %v", shown(rules), shown(r), got, want)
@@ -92,7 +77,7 @@ func expectProblems(t *testing.T, rules []api.Rule, r api.Record, want ...api.Pr
 			t.Errorf("Fits(%s, %s): %v", shown(rules), shown(r), len(want) != 0)
 		}
 	}
-	if !slices.Equal(rules, givenRules) || !equal(r, given) {
+	if !slices.Equal(rules, givenRules) || !sample.Equal(r, given) {
 		t.Errorf("Check or Fits made %s, %s of %s, %s", shown(rules), shown(r), shown(givenRules), shown(given))
 	}
 }
