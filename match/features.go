@@ -1,9 +1,8 @@
 package match
 
 import (
-	"strings"
-
 	"pinakes/api"
+	"pinakes/fields"
 	"pinakes/keys"
 )
 
@@ -23,7 +22,7 @@ func featuresOf(r api.Record) features {
 	return features{
 		numbers: numbersOf(r),
 		title:   keys.Title(r),
-		author:  keys.Words(textOf(firstField(r, "100"), 'a')),
+		author:  keys.Words(fields.Text(fields.First(r, "100"), "a")),
 		year:    yearOf(r),
 		kind:    r.Kind,
 	}
@@ -32,17 +31,9 @@ func featuresOf(r api.Record) features {
 // numbersOf returns the set of the book numbers of a record.
 func numbersOf(r api.Record) map[string]bool {
 	numbers := map[string]bool{}
-	for _, f := range r.Fields {
-		if f.Tag != "020" {
-			continue
-		}
-		for _, s := range f.Subs {
-			if s.Code != 'a' {
-				continue
-			}
-			if number, right := keys.Isbn(s.Text); right {
-				numbers[number] = true
-			}
+	for text := range fields.Texts(r, "020", 'a') {
+		if number, right := keys.Isbn(text); right {
+			numbers[number] = true
 		}
 	}
 	return numbers
@@ -57,12 +48,12 @@ const (
 
 // yearOf returns the year of the field 008, or else the one of the field 260.
 func yearOf(r api.Record) int {
-	if data := firstField(r, "008").Data; len(data) >= endOfYear {
+	if data := fields.First(r, "008").Data; len(data) >= endOfYear {
 		if year := firstYear(data[startOfYear:endOfYear]); year != noYear {
 			return year
 		}
 	}
-	return firstYear(textOf(firstField(r, "260"), 'c'))
+	return firstYear(fields.Text(fields.First(r, "260"), "c"))
 }
 
 // firstYear returns the number of the first four neighbouring digits of a text, whatever stands around them.
@@ -79,25 +70,4 @@ func firstYear(s string) int {
 		}
 	}
 	return noYear
-}
-
-// firstField returns the first field with a tag. If there is none, the empty field stands for it, whose texts are empty, too.
-func firstField(r api.Record, tag string) api.Field {
-	for _, f := range r.Fields {
-		if f.Tag == tag {
-			return f
-		}
-	}
-	return api.Field{}
-}
-
-// textOf returns the text of the subfields with a code.
-func textOf(f api.Field, code byte) string {
-	var texts []string
-	for _, s := range f.Subs {
-		if s.Code == code {
-			texts = append(texts, s.Text)
-		}
-	}
-	return strings.Join(texts, " ")
 }

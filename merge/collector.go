@@ -4,6 +4,7 @@ import (
 	"strings"
 
 	"pinakes/api"
+	"pinakes/copies"
 )
 
 // policy says which of the statements with a tag are taken.
@@ -45,7 +46,7 @@ type collector struct {
 }
 
 func (c *collector) take(s statement) {
-	c.merged.Record.Fields = append(c.merged.Record.Fields, copyOfField(s.field))
+	c.merged.Record.Fields = append(c.merged.Record.Fields, copies.Field(s.field))
 	c.merged.From = append(c.merged.From, s.from)
 }
 

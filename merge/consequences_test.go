@@ -37,7 +37,7 @@ func TestOrderOfTheList(t *testing.T) {
 	others := 0
 	for range 8000 {
 		l := distinct(someList(&q))
-		expectSame(t, l, shuffled(&q, l))
+		expectSame(t, l, sample.Shuffled(&q, l))
 		if len(latestByDefinition(l)) < len(l) {
 			others++
 		}
@@ -58,7 +58,7 @@ func TestVersionsThatDoNotCount(t *testing.T) {
 		l := someList(&q)
 		versions := merge.Latest(l)
 		expectSame(t, l, versions)
-		expectSame(t, l, shuffled(&q, versions))
+		expectSame(t, l, sample.Shuffled(&q, versions))
 		for i := len(l) - 1; i >= 0; i-- {
 			if !countsByDefinition(l, i) && q.Below(2) == 0 {
 				l = slices.Delete(l, i, i+1)

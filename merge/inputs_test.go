@@ -24,11 +24,11 @@ func someList(q *sample.Sequence) []api.Version {
 }
 
 func someSource(q *sample.Sequence) int {
-	return someOf(q, 1, 1, 2, 2, 3, 0, -1, math.MaxInt, math.MinInt)
+	return sample.One(q, 1, 1, 2, 2, 3, 0, -1, math.MaxInt, math.MinInt)
 }
 
 func someNumber(q *sample.Sequence) int {
-	return someOf(q, 1, 1, 1, 2, 2, 3, 0, -1, -2, 1<<32+1, math.MaxInt, math.MaxInt-1, math.MinInt, math.MinInt+1)
+	return sample.One(q, 1, 1, 1, 2, 2, 3, 0, -1, -2, 1<<32+1, math.MaxInt, math.MaxInt-1, math.MinInt, math.MinInt+1)
 }
 
 func someFields(q *sample.Sequence) []api.Field {
@@ -40,10 +40,10 @@ func someFields(q *sample.Sequence) []api.Field {
 }
 
 func someField(q *sample.Sequence) api.Field {
-	tag := someOf(q, "001", "008", "00", "010", "040", "100", "110", "111", "245", "246", "246", "650", "650", "650", "65", "", "9", "900", "é")
-	f := api.Field{Tag: tag, Ind: someOf(q, "  ", "10", "", "1")}
+	tag := sample.One(q, "001", "008", "00", "010", "040", "100", "110", "111", "245", "246", "246", "650", "650", "650", "65", "", "9", "900", "é")
+	f := api.Field{Tag: tag, Ind: sample.One(q, "  ", "10", "", "1")}
 	if q.Below(8) == 0 {
-		f.Data = someOf(q, "x", "X", "\x00")
+		f.Data = sample.One(q, "x", "X", "\x00")
 	}
 	for range q.Below(4) {
 		f.Subs = append(f.Subs, api.Sub{Code: "aaaab\x00"[q.Below(6)], Text: someText(q)})
@@ -52,17 +52,5 @@ func someField(q *sample.Sequence) api.Field {
 }
 
 func someText(q *sample.Sequence) string {
-	return someOf(q, "Sea", "SEA", "sea.", "s\u0301ea", "séa", "seas", "", "-", "日", "\x00", "\xff", "Ёлка", "елка")
-}
-
-func someOf[T any](q *sample.Sequence, list ...T) T { return list[q.Below(len(list))] }
-
-// shuffled returns the elements of a list in another order.
-func shuffled[T any](q *sample.Sequence, l []T) []T {
-	l = append([]T(nil), l...)
-	for i := range l {
-		k := i + q.Below(len(l)-i)
-		l[i], l[k] = l[k], l[i]
-	}
-	return l
+	return sample.One(q, "Sea", "SEA", "sea.", "s\u0301ea", "séa", "seas", "", "-", "日", "\x00", "\xff", "Ёлка", "елка")
 }

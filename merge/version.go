@@ -3,9 +3,9 @@ package merge
 import (
 	"cmp"
 	"slices"
-	"strings"
 
 	"pinakes/api"
+	"pinakes/copies"
 )
 
 // latest returns the versions that count, ordered by their records. What they consist of is not copied.
@@ -29,20 +29,8 @@ func compareRecs(a, b api.Rec) int {
 	return cmp.Or(cmp.Compare(a.Source, b.Source), cmp.Compare(a.Number, b.Number))
 }
 
-// copyOfVersion returns a version that shares no memory with v. Nor do its fields share memory with each other, even if those of v do.
+// copyOfVersion returns a version that shares no memory with v.
 func copyOfVersion(v api.Version) api.Version {
-	v.Record.Fields = slices.Clone(v.Record.Fields)
-	for i, f := range v.Record.Fields {
-		v.Record.Fields[i] = copyOfField(f)
-	}
+	v.Record = copies.Record(v.Record)
 	return v
-}
-
-func copyOfField(f api.Field) api.Field {
-	f.Tag, f.Ind, f.Data = strings.Clone(f.Tag), strings.Clone(f.Ind), strings.Clone(f.Data)
-	f.Subs = slices.Clone(f.Subs)
-	for i, s := range f.Subs {
-		f.Subs[i].Text = strings.Clone(s.Text)
-	}
-	return f
 }

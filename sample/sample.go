@@ -3,6 +3,7 @@ package sample
 
 import (
 	"iter"
+	"slices"
 	"strings"
 )
 
@@ -49,6 +50,19 @@ func (q *Sequence) Join(pieces []string, size int) string {
 		b.WriteString(pieces[q.Below(len(pieces))])
 	}
 	return b.String()
+}
+
+// One returns an element of a list.
+func One[T any](q *Sequence, list ...T) T { return list[q.Below(len(list))] }
+
+// Shuffled returns the elements of a list in another order.
+func Shuffled[T any](q *Sequence, list []T) []T {
+	list = slices.Clone(list)
+	for i := range list {
+		k := i + q.Below(len(list)-i)
+		list[i], list[k] = list[k], list[i]
+	}
+	return list
 }
 
 // Singles returns the bytes of s as strings of one byte.

@@ -45,6 +45,23 @@ func TestPieces(t *testing.T) {
 	}
 }
 
+// Each element comes in each place.
+func TestLists(t *testing.T) {
+	q := sample.Sequence(5)
+	list := []string{"a", "b", "c"}
+	ones, orders := map[string]bool{}, map[string]bool{}
+	for range 200 {
+		ones[sample.One(&q, list...)] = true
+		orders[strings.Join(sample.Shuffled(&q, list), "")] = true
+	}
+	if len(ones) != 3 || len(orders) != 6 {
+		t.Errorf("One returns %v, and Shuffled %v", ones, orders)
+	}
+	if !slices.Equal(list, []string{"a", "b", "c"}) || len(sample.Shuffled(&q, list[:0])) != 0 {
+		t.Errorf("Shuffled changes the list to %q", list)
+	}
+}
+
 func TestTexts(t *testing.T) {
 	got := slices.Collect(sample.Texts([]string{"a", "bc"}, 2))
 	if strings.Join(got, ",") != ",a,bc,aa,abc,bca,bcbc" {
